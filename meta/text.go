@@ -1,0 +1,186 @@
+package meta
+
+import (
+	"slices"
+	"strconv"
+	"strings"
+
+	"gemel/api"
+)
+
+const (
+	blank     = " "
+	newline   = "\n"
+	nothing   = "none"
+	hexDigits = 16
+)
+
+// Lines' words, in the order of the text.
+const (
+	metaLine = iota
+	superLine
+	lineLine
+	tableLine
+	keyLine
+	mapLine
+	hotLine
+	lines
+)
+
+var lineWords = [lines]string{"meta", "super", "line", "table", "key", "map", "hot"}
+
+func decimal(n uint64) string { return strconv.FormatUint(n, 10) }
+
+func hex(n uint64) string {
+	s := strconv.FormatUint(n, 16)
+	return strings.Repeat("0", hexDigits-len(s)) + s
+}
+
+func flag(is bool) string {
+	if is {
+		return "1"
+	}
+	return "0"
+}
+
+// said is what the lines of each word say, behind that word.
+func said(m api.Meta) [lines][]string {
+	var out [lines][]string
+	s, t := m.Super, m.Table
+	row := func(l ...string) []string { return []string{strings.Join(l, blank)} }
+	whole := func(n int) string { return strconv.Itoa(n) }
+	out[metaLine] = row(whole(m.Blocks))
+	out[superLine] = row(whole(int(s.State)), flag(s.Crashed), decimal(s.Seq))
+	out[lineLine] = row(hex(s.Line.Current), hex(s.Line.Base), hex(s.Line.History[0]), hex(s.Line.History[1]))
+	out[tableLine] = row(decimal(m.TableSeq), decimal(t.Gen), whole(int(t.Type)), whole(t.Holder))
+	for i, key := range t.Keys {
+		if key != 0 {
+			out[keyLine] = append(out[keyLine], whole(i)+blank+hex(key))
+		}
+	}
+	out[mapLine] = row(nothing)
+	if m.Marked {
+		out[mapLine] = row(hex(m.Set))
+	}
+	hot := []string{decimal(m.Number)}
+	for i := range extents {
+		if m.Hot>>i&1 == 1 {
+			hot = append(hot, whole(i))
+		}
+	}
+	out[hotLine] = row(hot...)
+	return out
+}
+
+// Text is its text.
+func Text(m api.Meta) (string, api.Errno) {
+	if !May(m) {
+		return "", api.ErrArg
+	}
+	var out strings.Builder
+	for i, l := range said(m) {
+		for _, x := range l {
+			out.WriteString(lineWords[i] + blank + x + newline)
+		}
+	}
+	return out.String(), api.OK
+}
+
+// Differ are the words of the lines that differ.
+func Differ(a, b api.Meta) []string {
+	var out []string
+	ours, theirs := said(a), said(b)
+	for i := range lines {
+		if !slices.Equal(ours[i], theirs[i]) {
+			out = append(out, lineWords[i])
+		}
+	}
+	return out
+}
+
+// reading is what was read of a text.
+type reading struct {
+	m    api.Meta
+	left []string // the words of a line
+	bad  bool
+}
+
+func (r *reading) number(base int) uint64 {
+	if len(r.left) == 0 {
+		r.bad = true
+		return 0
+	}
+	n, err := strconv.ParseUint(r.left[0], base, 64)
+	r.left = r.left[1:]
+	r.bad = r.bad || err != nil
+	return n
+}
+
+func (r *reading) decimal() uint64 { return r.number(10) }
+
+func (r *reading) hex() uint64 { return r.number(16) }
+
+func (r *reading) meta() { r.m.Blocks = int(r.decimal()) }
+
+func (r *reading) super() {
+	s := &r.m.Super
+	s.State, s.Crashed, s.Seq = api.State(r.decimal()), r.decimal() == 1, r.decimal()
+}
+
+func (r *reading) line() {
+	r.m.Super.Line = api.Line{Current: r.hex(), Base: r.hex(), History: [2]uint64{r.hex(), r.hex()}}
+}
+
+func (r *reading) table() {
+	r.m.TableSeq, r.m.Table.Gen = r.decimal(), r.decimal()
+	r.m.Table.Type, r.m.Table.Holder = api.ResType(r.decimal()), int(r.decimal())
+}
+
+func (r *reading) key() {
+	who := r.decimal()
+	if who >= api.Initiators {
+		r.bad = true
+		return
+	}
+	r.m.Table.Keys[who] = r.hex()
+}
+
+func (r *reading) marks() {
+	if slices.Equal(r.left, []string{nothing}) {
+		r.left = nil
+		return
+	}
+	r.m.Marked, r.m.Set = true, r.hex()
+}
+
+func (r *reading) hot() {
+	r.m.Number = r.decimal()
+	for len(r.left) > 0 && !r.bad {
+		x := r.decimal()
+		r.bad = r.bad || x >= extents
+		r.m.Hot |= 1 << x
+	}
+}
+
+// Of is what a text says.
+func Of(s string) (api.Meta, api.Errno) {
+	r := &reading{}
+	ways := [lines]func(){r.meta, r.super, r.line, r.table, r.key, r.marks, r.hot}
+	for left := s; left != "" && !r.bad; {
+		line, rest, _ := strings.Cut(left, newline)
+		left = rest
+		r.left = strings.Split(line, blank)
+		at := slices.Index(lineWords[:], r.left[0])
+		if at < 0 {
+			return api.Meta{}, api.ErrBytes
+		}
+		r.left = r.left[1:]
+		ways[at]()
+		r.bad = r.bad || len(r.left) > 0
+	}
+	// What was read has one text alone: another order, or a number's other digits, are not it.
+	if text, e := Text(r.m); r.bad || e != api.OK || text != s {
+		return api.Meta{}, api.ErrBytes
+	}
+	return r.m, api.OK
+}
