@@ -156,6 +156,7 @@ func TestPromotes(t *testing.T) {
 		{ask(0, api.AskPromote), on(1), ask(1, api.AskPromote)},
 		{ask(0, api.AskOutdate), ask(0, api.AskPromote)},
 		append([]api.Act{tick(0), tick(1), all, ask(0, api.AskPromote)}, times(9, tick(0))...),
+		{tick(0), tick(1), all, ask(1, api.AskPromote), all, ask(0, api.AskPromote), {Kind: api.ActCarry, N: -1}, off(1), all},
 		{tick(0), tick(1), all, ask(1, api.AskPromote), all, ask(0, api.AskPromote), ask(0, api.AskPromote), ask(1, api.AskDemote), all},
 	} {
 		judged(t, i, run(t, stage(5), l...))

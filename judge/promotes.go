@@ -26,10 +26,27 @@ func (m *matter) asked(x api.Seen) int {
 	return 0
 }
 
+// reignedAt tells whether a node was Primary as an act began. (A loss of power by an act of its own is no step, and not seen.)
+func (m *matter) reignedAt(node, act int) bool {
+	last := -1
+	for i, y := range m.seen {
+		if y.Act < act {
+			last = i
+		}
+	}
+	if last < 0 || m.seen[last].After.Role[node] != api.Primary {
+		return false
+	}
+	return !slices.ContainsFunc(m.log[m.seen[last].Act:act], func(a api.Act) bool { return a.Kind == api.ActOff && a.Node == node })
+}
+
 // reigned tells whether the other node was Primary at some moment since a node was asked, up to what is the i-th that was seen.
 func (m *matter) reigned(i int) bool {
 	x := m.seen[i]
 	other, since := 1-x.Node, m.asked(x)
+	if m.reignedAt(other, since) {
+		return true
+	}
 	return slices.ContainsFunc(m.seen[:i+1], func(y api.Seen) bool {
 		return y.Act >= since && (y.Before.Role[other] == api.Primary || y.After.Role[other] == api.Primary)
 	})

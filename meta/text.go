@@ -162,6 +162,16 @@ func (r *reading) hot() {
 	}
 }
 
+// lineOf is which line a word begins; below 0 if it begins none.
+func lineOf(word string) int {
+	for i, x := range lineWords {
+		if x == word {
+			return i
+		}
+	}
+	return -1
+}
+
 // Of is what a text says.
 func Of(s string) (api.Meta, api.Errno) {
 	r := &reading{}
@@ -170,7 +180,7 @@ func Of(s string) (api.Meta, api.Errno) {
 		line, rest, _ := strings.Cut(left, newline)
 		left = rest
 		r.left = strings.Split(line, blank)
-		at := slices.Index(lineWords[:], r.left[0])
+		at := lineOf(r.left[0])
 		if at < 0 {
 			return api.Meta{}, api.ErrBytes
 		}
