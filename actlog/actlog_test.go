@@ -86,7 +86,10 @@ func TestOpenErrors(t *testing.T) {
 		if ok != (e == api.OK) || ok != (l != nil) || !ok && e != api.ErrArg {
 			t.Error(x, e)
 		}
-		if e := actlog.Format(d, x[0], x[1]); (e == api.OK) != (x[3] == 1) {
+		was := d.Copy()
+		d.Write(19, api.Block{1})
+		was.Write(19, api.Block{1})
+		if e := actlog.Format(d, x[0], x[1]); (e == api.OK) != (x[3] == 1) || e != api.OK && !d.Same(was) {
 			t.Error(x, e)
 		}
 	}
@@ -270,9 +273,9 @@ func TestFormat(t *testing.T) {
 // P5.2, P5.3: nil and zero logs.
 func TestNil(t *testing.T) {
 	for _, l := range []*actlog.Log{nil, {}} {
-		_, _, e := l.Touch(-1)
+		out, wrote, e := l.Touch(-1)
 		i, ok := l.First()
-		if e != api.ErrNil || l.Clear() != api.ErrNil || len(l.Hot()) != 0 || l.Has(0) || l.Number() != 0 || i != 0 || ok {
+		if out != 0 || wrote || e != api.ErrNil || l.Clear() != api.ErrNil || len(l.Hot()) != 0 || l.Has(0) || l.Number() != 0 || i != 0 || ok {
 			t.Error(e)
 		}
 	}

@@ -155,3 +155,22 @@ func TestFollows(t *testing.T) {
 		t.Error(a.Len())
 	}
 }
+
+// P17.2: what happens to a copy does not happen to what it is of, however much happened ahead.
+func TestCopyApart(t *testing.T) {
+	a := arbiter.New()
+	for range 9 {
+		a.Take(0)
+		c := a.Copy()
+		c.Release(0)
+		c.Take(1)
+		a.Release(0)
+		a.Take(0)
+		if l := events(c); !l[len(l)-1].Taken || l[len(l)-1].Node != 1 || l[len(l)-2].Taken {
+			t.Error(l)
+		}
+		if l := events(a); l[len(l)-1] != (api.Grant{Taken: true}) {
+			t.Error(l)
+		}
+	}
+}

@@ -102,6 +102,9 @@ func TestSave(t *testing.T) {
 	if l, e := bitmap.Load(d, 1, 8); l != nil || e != api.ErrBytes {
 		t.Error(e)
 	}
+	if one := plate(t, 1); m.Save(one, 0) != api.OK {
+		t.Error("a disk of one block")
+	}
 	full := made(t, 64)
 	full.Fill()
 	full.Save(d, 0)

@@ -2,6 +2,7 @@ package console_test
 
 import (
 	"slices"
+	"strconv"
 	"strings"
 	"testing"
 
@@ -142,6 +143,9 @@ func TestRun(t *testing.T) {
 	if got, e := c.Run(strings.Repeat("x", api.MaxScript+1)); got != "" || e != api.ErrLong {
 		t.Error(e)
 	}
+	if got, e := c.Run(strings.Repeat("x", api.MaxScript)); got != "error 4\n" || e != api.OK {
+		t.Error(got, e)
+	}
 	lines := append([]string{stage}, reign...)
 	lines = append(lines, "command 0 0 write 1 07", "x", "view", "blocks 1", "all", "history", "tree", "judge", "end", "view")
 	want := ""
@@ -186,5 +190,25 @@ func TestScript(t *testing.T) {
 			t.Error(i)
 		}
 		says(t, c, []string{"judge", "right right right right right right"})
+	}
+}
+
+// P26.1: a line's elder ones, in order.
+func TestLine(t *testing.T) {
+	c := begun(t)
+	for range 2 {
+		for _, l := range []string{"ask 0 disconnect", "ask 0 promote", "ask 0 connect", "on 1", "tick 0", "tick 1", "all", "ask 0 demote", "all"} {
+			c.Say(l)
+		}
+	}
+	x := c.World().Node(0).Store().Super().Line
+	if x.History[0] == 0 || x.History[1] == 0 || x.History[0] == x.History[1] {
+		t.Fatal(x)
+	}
+	got := strings.Fields(c.Say("line 0")[0])
+	for i, n := range []uint64{x.Current, x.Base, x.History[0], x.History[1]} {
+		if got[1+i] != strconv.FormatUint(n, 10) {
+			t.Error(i, got)
+		}
 	}
 }

@@ -278,3 +278,15 @@ func TestLasts(t *testing.T) {
 		}
 	}
 }
+
+// P3.3: what a copy settles is its own.
+func TestCopySettles(t *testing.T) {
+	d := made(t, 1)
+	c := d.Copy()
+	c.Write(0, of(7))
+	c.Flush()
+	reads(t, d, 0, 0)
+	d.Crash(nil)
+	reads(t, d, 0, 0)
+	reads(t, c, 0, 7)
+}

@@ -184,7 +184,7 @@ func TestWorld(t *testing.T) {
 	for i, x := range []struct {
 		draws []uint64
 		all   []uint64
-	}{{nil, []uint64{1<<40 + 1, 1<<40 + 2, 1<<40 + 3}}, {[]uint64{7, 8, 9}, []uint64{7, 8, 9}}, {[]uint64{7, 8, 8}, nil}, {[]uint64{7, 7}, nil}, {[]uint64{0, 8}, nil}, {[]uint64{7, 0}, nil}} {
+	}{{nil, []uint64{1<<40 + 1, 1<<40 + 2, 1<<40 + 3}}, {[]uint64{7, 8, 9}, []uint64{7, 8, 9}}, {[]uint64{7}, []uint64{7, 1<<40 + 2, 1<<40 + 3}}, {[]uint64{7, 8, 8}, nil}, {[]uint64{7, 7}, nil}, {[]uint64{0, 8}, nil}, {[]uint64{7, 0}, nil}} {
 		w, _, e := world.Run(stage(x.draws...), force(0), force(1))
 		if e != api.OK {
 			t.Fatal(e)

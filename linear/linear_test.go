@@ -118,7 +118,7 @@ func TestReads(t *testing.T) {
 		{row{}.gone(write(0, 1)).reads(0, 1), true}, {row{}.gone(write(0, 1)).reads(0, 0), true}, {row{}.gone(write(0, 1)).reads(0, 1).reads(0, 0), false}, {row{}.gone(write(0, 1)).reads(0, 0).reads(0, 1), false}, {row{}.gone(write(0, 1)).reads(1, 0).reads(0, 1), true},
 		{row{}.gone(write(0, 1)).gone(write(0, 2)).reads(0, 1), true}, {row{}.gone(write(0, 1)).gone(write(0, 2)).reads(0, 2).reads(0, 1), false}, {row{}.gone(write(0, 1)).gone(write(0, 2)).reads(0, 3), false},
 		{row{}.gone(write(0, 1)).writes(0, 2).reads(0, 1), false}, {row{}.gone(write(0, 1)).writes(0, 2).reads(0, 2), true},
-		{row{}.writes(0, 5).gone(api.Command{Kind: api.CmdTrim}).reads(0, 0), true}, {row{}.gone(read(0)).gone(api.Command{Kind: api.CmdFlush}).reads(0, 0), true},
+		{row{}.writes(0, 5).gone(api.Command{Kind: api.CmdTrim}).reads(0, 0), true}, {row{}.gone(read(0)).gone(api.Command{Kind: api.CmdFlush}).reads(0, 0), true}, {row{}.writes(0, 5).gone(read(0)).reads(0, 0), false}, {row{}.writes(0, 5).gone(register(0, 5)).reads(0, 0), false},
 		{row{}.does(api.Command{Kind: api.CmdFlush}, api.Answer{}).reads(0, 0), true}, {row{}.writes(40, 1).reads(40, 1), true}, {row{}.writes(40, 1).reads(40, 2), false}, {row{}.reads(99, 7).reads(-1, 8).writes(99, 1), true},
 	} {
 		explained(t, i, x.r, x.want)
@@ -137,7 +137,7 @@ func TestCodes(t *testing.T) {
 		{far, api.ErrRange, true}, {read(63), api.ErrRange, true}, {read(7), api.ErrRange, false}, {read(64), api.ErrRange, false}, {bad, api.ErrRange, false}, {register(0, 1), api.ErrRange, false}, {api.Command{Kind: api.CmdFlush}, api.ErrRange, false},
 		{good, api.ErrState, true}, {bad, api.ErrState, true}, {register(0, 1), api.ErrState, true}, {good, api.ErrIO, true}, {register(0, 1), api.ErrIO, true},
 		{good, api.ErrConflict, false}, {api.Command{Kind: api.CmdPRIn}, api.ErrConflict, false}, {good, api.ErrFull, false}, {good, api.ErrNil, false}, {good, api.ErrBusy, false}, {good, -1, false}, {good, 99, false},
-		{register(0, 1), api.ErrConflict, false}, {action(0, api.Action{Kind: api.ResRegister, Key: 5, New: 6}), api.ErrConflict, true}, {action(0, api.Action{Kind: 99}), api.ErrArg, true}, {register(0, 1), api.ErrArg, false}, {register(0, 1), api.ErrFull, false},
+		{register(0, 1), api.ErrConflict, false}, {action(0, api.Action{Kind: api.ResRegister, Key: 5, New: 6}), api.ErrConflict, true}, {action(0, api.Action{Kind: 99}), api.ErrArg, true}, {api.Command{Kind: api.CmdPROut, Block: 1, Action: api.Action{Kind: api.ResIgnore, New: 1}}, api.ErrArg, true}, {register(0, 1), api.ErrArg, false}, {register(0, 1), api.ErrFull, false},
 	} {
 		explained(t, i, row{}.code(x.c, x.e), x.want)
 	}
@@ -167,6 +167,7 @@ func TestTables(t *testing.T) {
 		{row{}.gone(a).table(one), true}, {row{}.gone(a).table(api.Reserve{}), true}, {row{}.gone(a).table(one).table(api.Reserve{}), false}, {row{}.gone(a).table(two), false}, {row{}.gone(a).gone(b).table(do(api.Reserve{}, b)), true}, {row{}.gone(a).gone(b).table(two), true},
 		{row{}.gone(hold).table(api.Reserve{}), true}, {row{}.does(hold, api.Answer{}), false}, {row{}.code(hold, api.ErrConflict), true}, {row{}.gone(a).does(hold, api.Answer{}), true}, {row{}.gone(a).does(hold, api.Answer{}).table(api.Reserve{}), false}, {row{}.gone(a).code(hold, api.ErrConflict).table(api.Reserve{}), true}, {row{}.gone(a).code(hold, api.ErrConflict).table(one), false},
 		{known.does(hold, api.Answer{}).table(held), true}, {known.does(hold, api.Answer{}).code(by(1, read(0)), api.ErrConflict), true}, {known.does(hold, api.Answer{}).does(by(1, read(0)), api.Answer{}), false}, {known.does(hold, api.Answer{}).does(by(0, read(0)), api.Answer{}), true}, {known.does(hold, api.Answer{}).does(by(1, write(0, 1)), api.Answer{}), false}, {known.does(hold, api.Answer{}).does(api.Command{Who: 1, Kind: api.CmdFlush}, api.Answer{}), false},
+		{known.code(action(0, api.Action{Kind: api.ResRegister, Key: 9}), api.ErrConflict).table(two), true}, {known.code(action(0, api.Action{Kind: api.ResRegister, Key: 9}), api.ErrConflict).table(api.Reserve{}), false},
 		{known.gone(hold).code(by(1, read(0)), api.ErrConflict).table(held), true}, {known.gone(hold).code(by(1, read(0)), api.ErrConflict).table(two), false}, {known.gone(hold).does(by(1, read(0)), api.Answer{}).table(two), true}, {known.gone(hold).does(by(1, read(0)), api.Answer{}).table(held), false},
 		{known.does(action(0, api.Action{Kind: api.ResPreempt, Key: 5, New: 7}), api.Answer{Out: []int{1}}), true}, {known.does(action(0, api.Action{Kind: api.ResPreempt, Key: 5, New: 7}), api.Answer{}), false},
 	} {
@@ -176,12 +177,16 @@ func TestTables(t *testing.T) {
 
 // P23.1: many actions that are gone are not told apart more often than they are apart.
 func TestManyGone(t *testing.T) {
-	r := row{}
-	for range 2000 {
-		r = append(r, row{}.gone(action(0, api.Action{Kind: api.ResReserve, Key: 5, Type: 1}))...)
+	r := row{}.does(register(0, 5), api.Answer{})
+	hold := action(0, api.Action{Kind: api.ResReserve, Key: 5, Type: 1})
+	for range 500 {
+		r = append(r, row{}.gone(hold)...)
 		r[len(r)-1].Seq = len(r)
 	}
-	explained(t, 0, r, true)
+	one := do(api.Reserve{}, register(0, 5))
+	explained(t, 0, r.table(one), true)
+	explained(t, 1, r.table(do(one, hold)), true)
+	explained(t, 2, r.table(api.Reserve{}), false)
 }
 
 // P23.2: values, and what may have landed.

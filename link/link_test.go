@@ -466,3 +466,21 @@ func TestCarried(t *testing.T) {
 		}
 	}
 }
+
+// P9.3: what a copy sends is its own, however much was sent ahead.
+func TestCopyApart(t *testing.T) {
+	l := up(t)
+	for range 9 {
+		l.Send([]byte("a"))
+		c := l.Copy()
+		c.Send([]byte("c"))
+		l.Send([]byte("l"))
+		c.Out()
+		c.Tick()
+		out := c.Out()
+		p, e := packet.Of(out[len(out)-1])
+		if e != api.OK || string(p.Payload) != "c" {
+			t.Error(string(p.Payload), e)
+		}
+	}
+}

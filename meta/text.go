@@ -98,21 +98,18 @@ func Differ(a, b api.Meta) []string {
 	return out
 }
 
-// reading is what was read of a text.
+// reading is what was read of a text. What can't be read is 0: its text is another one then.
 type reading struct {
 	m    api.Meta
 	left []string // the words of a line
-	bad  bool
 }
 
 func (r *reading) number(base int) uint64 {
 	if len(r.left) == 0 {
-		r.bad = true
 		return 0
 	}
-	n, err := strconv.ParseUint(r.left[0], base, 64)
+	n, _ := strconv.ParseUint(r.left[0], base, 64)
 	r.left = r.left[1:]
-	r.bad = r.bad || err != nil
 	return n
 }
 
@@ -137,28 +134,21 @@ func (r *reading) table() {
 }
 
 func (r *reading) key() {
-	who := r.decimal()
-	if who >= api.Initiators {
-		r.bad = true
-		return
+	if who := r.decimal(); who < api.Initiators {
+		r.m.Table.Keys[who] = r.hex()
 	}
-	r.m.Table.Keys[who] = r.hex()
 }
 
 func (r *reading) marks() {
-	if slices.Equal(r.left, []string{nothing}) {
-		r.left = nil
-		return
+	if !slices.Equal(r.left, []string{nothing}) {
+		r.m.Marked, r.m.Set = true, r.hex()
 	}
-	r.m.Marked, r.m.Set = true, r.hex()
 }
 
 func (r *reading) hot() {
 	r.m.Number = r.decimal()
-	for len(r.left) > 0 && !r.bad {
-		x := r.decimal()
-		r.bad = r.bad || x >= extents
-		r.m.Hot |= 1 << x
+	for len(r.left) > 0 {
+		r.m.Hot |= 1 << r.decimal()
 	}
 }
 
@@ -176,20 +166,19 @@ func lineOf(word string) int {
 func Of(s string) (api.Meta, api.Errno) {
 	r := &reading{}
 	ways := [lines]func(){r.meta, r.super, r.line, r.table, r.key, r.marks, r.hot}
-	for left := s; left != "" && !r.bad; {
+	for left := s; left != ""; {
 		line, rest, _ := strings.Cut(left, newline)
 		left = rest
-		r.left = strings.Split(line, blank)
-		at := lineOf(r.left[0])
+		words := strings.Split(line, blank)
+		at := lineOf(words[0])
 		if at < 0 {
 			return api.Meta{}, api.ErrBytes
 		}
-		r.left = r.left[1:]
+		r.left = words[1:]
 		ways[at]()
-		r.bad = r.bad || len(r.left) > 0
 	}
-	// What was read has one text alone: another order, or a number's other digits, are not it.
-	if text, e := Text(r.m); r.bad || e != api.OK || text != s {
+	// What may be has one text alone: lines in another order, or a number's other digits, are not it.
+	if text, e := Text(r.m); e != api.OK || text != s {
 		return api.Meta{}, api.ErrBytes
 	}
 	return r.m, api.OK

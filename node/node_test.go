@@ -16,6 +16,7 @@ func TestMay(t *testing.T) {
 		t.Fatal("May")
 	}
 	for i, f := range []func(s *api.Setup) bool{
+		func(s *api.Setup) bool { s.Blocks = 1; return true }, func(s *api.Setup) bool { s.Hot = 1; return true }, func(s *api.Setup) bool { s.Window = 1; return true }, func(s *api.Setup) bool { s.Cap = 1; return true },
 		func(s *api.Setup) bool { s.Blocks = 0; return false }, func(s *api.Setup) bool { s.Blocks = 65; return false }, func(s *api.Setup) bool { s.Blocks = 64; return true }, func(s *api.Setup) bool { s.Blocks = -1; return false },
 		func(s *api.Setup) bool { s.Hot = 0; return false }, func(s *api.Setup) bool { s.Hot = 17; return false }, func(s *api.Setup) bool { s.Hot = 16; return true },
 		func(s *api.Setup) bool { s.Cap = 0; return false }, func(s *api.Setup) bool { s.Cap = 1001; return false }, func(s *api.Setup) bool { s.Cap = 1000; return true },

@@ -53,7 +53,7 @@ func TestZero(t *testing.T) {
 				t.Error(i, "turned", v, ok)
 			}
 		}
-		for _, l := range [][2]int{{0, 0}, {1, 1}, {0, 2}, {-1, 1}, {2, 3}, {1 << 62, 1}} {
+		for _, l := range [][2]int{{0, 0}, {1, 1}, {0, 2}, {-1, 1}, {2, 3}, {2, -1}, {-1, 2}, {1 << 62, 1}} {
 			if v, ok := policy.Zero(x.c, side(l[0], 1, 5, 1), side(l[1], 1, 6, 2)); v != 0 || ok {
 				t.Error(i, l)
 			}

@@ -346,9 +346,10 @@ func TestErrors(t *testing.T) {
 	}
 	d := made(t, 3)
 	for _, at := range []int{-1, 2, 3, 1 << 62} {
-		_, _, e := reserve.Load(d, at)
-		_, f := reserve.Save(d, at, good)
-		if e != api.ErrArg || f != api.ErrArg || reserve.Format(d, at) != api.ErrArg {
+		was := d.Copy()
+		x, n, e := reserve.Load(d, at)
+		seq, f := reserve.Save(d, at, good)
+		if x != (api.Reserve{}) || n != 0 || seq != 0 || e != api.ErrArg || f != api.ErrArg || reserve.Format(d, at) != api.ErrArg || !d.Same(was) || len(d.Open()) != 0 {
 			t.Error(at, e, f)
 		}
 	}
@@ -368,10 +369,15 @@ func TestErrors(t *testing.T) {
 		t.Error(e)
 	}
 	d.Fail()
-	_, _, e := reserve.Load(d, 0)
-	_, f := reserve.Save(d, 0, good)
-	if e != api.ErrIO || f != api.ErrIO || reserve.Format(d, 0) != api.ErrIO {
+	x, n, e := reserve.Load(d, 0)
+	seq, f := reserve.Save(d, 0, good)
+	if x != (api.Reserve{}) || n != 0 || seq != 0 || e != api.ErrIO || f != api.ErrIO || reserve.Format(d, 0) != api.ErrIO {
 		t.Error(e, f)
+	}
+	d.Blank()
+	d.Fuse(0)
+	if seq, e := reserve.Save(d, 0, good); seq != 0 || e != api.ErrDead {
+		t.Error(seq, e)
 	}
 }
 

@@ -165,8 +165,8 @@ func ActOf(s string) (api.Act, api.Errno) {
 	for _, letter := range forms[a.Kind].letters {
 		all[letter].take(r, &a)
 	}
-	// What was taken may have another text: noughts at a block's end, say.
-	if text, e := ActText(a); !r.ended() || e != api.OK || text != s {
+	// What may be told has one text alone: another one, with noughts at a block's end, say, is not it.
+	if text, e := ActText(a); e != api.OK || text != s {
 		return api.Act{}, api.ErrBytes
 	}
 	return a, api.OK

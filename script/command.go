@@ -30,15 +30,7 @@ func BlockText(b api.Block) string {
 // block is the next word, as a block.
 func (r *reading) block() api.Block {
 	var out api.Block
-	w := r.word()
-	if w == none {
-		return out
-	}
-	b, e := wire.OfDigits(w)
-	if e != api.OK || len(b) > len(out) {
-		r.failed = true
-		return out
-	}
+	b, _ := wire.OfDigits(r.word())
 	copy(out[:], b)
 	return out
 }

@@ -5,7 +5,6 @@ import (
 	"strconv"
 	"strings"
 
-	"gemel/api"
 	"gemel/wire"
 )
 
@@ -15,18 +14,14 @@ const (
 	none  = "-"
 )
 
-// reading takes words off a text, one behind the other.
-type reading struct {
-	words  []string
-	failed bool
-}
+// reading takes words off a text, one behind the other. What can't be taken is nothing: its text is another one then.
+type reading struct{ words []string }
 
-func read(s string) *reading { return &reading{words: strings.Split(s, blank)} }
+func read(s string) *reading { return &reading{strings.Split(s, blank)} }
 
 // word is the next word.
 func (r *reading) word() string {
 	if len(r.words) == 0 {
-		r.failed = true
 		return ""
 	}
 	w := r.words[0]
@@ -36,21 +31,12 @@ func (r *reading) word() string {
 
 // number is the next word, as a number.
 func (r *reading) number(most uint64) uint64 {
-	n, e := wire.Decimal(r.word(), most)
-	if e != api.OK {
-		r.failed = true
-	}
+	n, _ := wire.Decimal(r.word(), most)
 	return n
 }
 
-// place is which one of some words the next one is, from 1 on.
-func (r *reading) place(of []string) int {
-	at := slices.Index(of, r.word())
-	if at < 0 {
-		r.failed = true
-	}
-	return at + 1
-}
+// place is which one of some words the next one is, from 1 on; 0 if it is none.
+func (r *reading) place(of []string) int { return slices.Index(of, r.word()) + 1 }
 
 // row is the next word, as a row of numbers.
 func (r *reading) row(most uint64) []uint64 {
@@ -60,18 +46,11 @@ func (r *reading) row(most uint64) []uint64 {
 	}
 	var out []uint64
 	for _, x := range strings.Split(w, comma) {
-		n, e := wire.Decimal(x, most)
-		if e != api.OK {
-			r.failed = true
-			return nil
-		}
+		n, _ := wire.Decimal(x, most)
 		out = append(out, n)
 	}
 	return out
 }
-
-// ended tells whether all words could be taken, and none is left.
-func (r *reading) ended() bool { return !r.failed && len(r.words) == 0 }
 
 func decimal(n uint64) string { return strconv.FormatUint(n, 10) }
 

@@ -65,6 +65,8 @@ func TestRows(t *testing.T) {
 		{of(inco, line(5), 1), of(outd, line(5), 6), refused(4)},
 		{of(uptd, line(5), 0), of(uptd, line(5), 0), api.Plan{Verdict: 4, Source: -1}},
 		{of(uptd, line(5), 1), of(uptd, line(5), 4), api.Plan{Verdict: 4, Source: 0, Set: 5}},
+		{of(uptd, line(5), 1), of(uptd, line(5), 0), api.Plan{Verdict: 4, Source: 0, Set: 1}},
+		{of(uptd, line(5), 0), of(uptd, line(5), 4), api.Plan{Verdict: 4, Source: 0, Set: 4}},
 		{of(uptd, line(5, 3), 1), of(uptd, line(3), 4), api.Plan{Verdict: 6, Source: 0, Set: 5}},
 		{of(uptd, line(3), 1), of(uptd, line(5, 3), 4), api.Plan{Verdict: 5, Source: 1, Set: 5, Table: 1}},
 		{of(uptd, line(5, 4, 3), 1), of(inco, line(3), 4), api.Plan{Verdict: 6, Source: 0, Full: true}},

@@ -132,6 +132,14 @@ func TestRefused(t *testing.T) {
 	if store.Format(d, 8, line, api.Diskless) != api.ErrArg || store.Format(d, 8, api.Line{Current: 1, Base: 1}, api.UpToDate) != api.ErrArg || !d.Same(was) {
 		t.Error("what may not be known")
 	}
+	for _, n := range []int{0, 17} {
+		if s, e := store.Attach(plate(t, 17), 8, n); s != nil || e != api.ErrArg {
+			t.Error("ErrArg is ahead of ErrNone", e)
+		}
+	}
+	if s, e := store.Attach(d, 8, 16); s == nil || e != api.OK {
+		t.Error(e)
+	}
 	for _, at := range []int{0, 2} {
 		x := d.Copy()
 		x.Write(at, of(0))

@@ -61,7 +61,15 @@ func TestWrites(t *testing.T) {
 			t.Error(b)
 		}
 	}
-	if l.Add(3, 1, api.Block{}) != api.ErrExists || l.Got(4) != api.ErrNone {
+	for _, n := range []uint64{9, 3, 7} {
+		if l.Add(n, 1, api.Block{}) != api.ErrExists {
+			t.Error(n)
+		}
+		if x, ok := l.Has(n); !ok || x.Num != n {
+			t.Error(n, x)
+		}
+	}
+	if l.Got(4) != api.ErrNone {
 		t.Error("errors")
 	}
 	if x, e := l.Written(4); x != (api.Entry{}) || e != api.ErrNone {

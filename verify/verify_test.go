@@ -272,6 +272,15 @@ func TestCarryErrors(t *testing.T) {
 	if n, e := verify.Mend(a, b, 2, false); n != 0 || e != api.ErrIO {
 		t.Error(n, e)
 	}
+	c, dc := made(t, 1, 2, 3, 4)
+	c.Map().Mark(1)
+	dc.Fuse(0)
+	if n, e := verify.Mend(c, a, 2, false); n != 0 || e != api.ErrDead {
+		t.Error(n, e)
+	}
+	if n, e := verify.Mend(c, a, 2, true); n != 0 || e != api.ErrDead {
+		t.Error(n, e)
+	}
 	da.Fail()
 	v = begun(t, a, 0, 4, 3)
 	if n, e := verify.Carry(v, b, 9); n != 0 || e != api.ErrIO || v.Count().Asked != 0 {
@@ -284,16 +293,16 @@ func TestArgs(t *testing.T) {
 	a, _ := made(t, 1, 2, 3)
 	b, _ := made(t, 1, 2)
 	for _, n := range []int{-1, 0, 17} {
-		_, e := verify.Both(a, a, n)
-		_, f := verify.Mend(a, a, n, true)
-		if e != api.ErrArg || f != api.ErrArg {
+		l, e := verify.Both(a, a, n)
+		k, f := verify.Mend(a, a, n, true)
+		if len(l) != 0 || k != 0 || e != api.ErrArg || f != api.ErrArg {
 			t.Error(n, e, f)
 		}
 	}
 	_, e := verify.Both(a, b, 1)
 	_, f := verify.Differ(b, a)
-	_, g := verify.Mend(a, b, 1, true)
-	if e != api.ErrArg || f != api.ErrArg || g != api.ErrArg {
+	n, g := verify.Mend(a, b, 1, true)
+	if n != 0 || e != api.ErrArg || f != api.ErrArg || g != api.ErrArg {
 		t.Error(e, f, g)
 	}
 }
@@ -359,6 +368,11 @@ func TestMendCounts(t *testing.T) {
 	}
 	if n, e := verify.Mend(a, b, 2, true); n != 0 || e != api.OK {
 		t.Error("nothing is marked", n, e)
+	}
+	one, _ := made(t, 1)
+	other, _ := made(t, 2)
+	if l, e := verify.Both(one, other, 1); !slices.Equal(l, []int{0}) || e != api.OK {
+		t.Error("stores of one block", l, e)
 	}
 }
 

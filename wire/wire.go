@@ -3,11 +3,6 @@ package wire
 
 import "gemel/api"
 
-const (
-	mostBlob  = 65535
-	mostCount = 255
-)
-
 // Writer puts things behind one another. A zero one has put nothing.
 type Writer struct {
 	b      []byte
@@ -58,21 +53,11 @@ func (w *Writer) Bytes(b []byte) *Writer {
 	return w
 }
 
-// Blob puts a length and bytes.
-func (w *Writer) Blob(b []byte) *Writer {
-	if !w.deaf() && len(b) > mostBlob {
-		w.failed = true
-	}
-	return w.Number(uint64(len(b)), 2).Bytes(b)
-}
+// Blob puts a length and bytes. (A length above 65535 has no room in 2 bytes.)
+func (w *Writer) Blob(b []byte) *Writer { return w.Number(uint64(len(b)), 2).Bytes(b) }
 
-// Count puts how many a list has.
-func (w *Writer) Count(n int) *Writer {
-	if !w.deaf() && (n < 0 || n > mostCount) {
-		w.failed = true
-	}
-	return w.Number(uint64(n), 1)
-}
+// Count puts how many a list has. (One below 0 is a great number here, for which there is no room.)
+func (w *Writer) Count(n int) *Writer { return w.Number(uint64(n), 1) }
 
 // Block puts a block.
 func (w *Writer) Block(b api.Block) *Writer { return w.Bytes(b[:]) }

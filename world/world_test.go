@@ -141,7 +141,7 @@ func TestRefused(t *testing.T) {
 		{api.Act{Kind: api.ActCarry, Node: 7}, api.ErrNone}, {api.Act{Kind: api.ActCarryAll, Node: 7}, api.OK},
 		{tick(1), api.ErrState}, {read(1, 0), api.ErrState}, {ask(1, api.AskPromote), api.ErrState}, {off(1), api.ErrState}, {on(0), api.ErrState}, {api.Act{Kind: api.ActBlank}, api.ErrState},
 		{fuse(1, 0), api.OK}, {api.Act{Kind: api.ActFail, Node: 1}, api.OK}, {api.Act{Kind: api.ActBlank, Node: 1}, api.OK},
-		{api.Act{Kind: api.ActTick, Node: 0, N: -5, Ask: 99}, api.OK},
+		{api.Act{Kind: api.ActTick, Node: 0, N: -5, Ask: 99}, api.OK}, {ask(0, api.AskVerify), api.OK},
 	} {
 		if e := w.Do(x.a); e != x.e {
 			t.Error(i, e)
