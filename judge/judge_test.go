@@ -281,3 +281,25 @@ func TestBelow(t *testing.T) {
 		}
 	}
 }
+
+// P24.1, P24.3: what is wrong is told. The words of the node's chapter let a Primary whose disk dies give the grant back while its blocks still go: who has not got them may be promoted then, and what was answered is lost.
+func TestTellsWrong(t *testing.T) {
+	carry := func(n int) api.Act { return api.Act{Kind: api.ActCarry, N: n} }
+	read := api.Act{Kind: api.ActCommand, Node: 1, Cmd: api.Command{Kind: api.CmdRead, Block: 1}}
+	w := run(t, stage(5, 6, 7, 8, 9, 10), ask(0, api.AskPromote), write(0, 1, 7), on(1), tick(0), tick(1), carry(0), carry(2), carry(3), carry(6), fuse(0, 0), write(0, 2, 9), off(1), on(1), ask(1, api.AskPromote), read)
+	h := w.History()
+	if v := w.View(); v.Role[1] != api.Primary || len(h) != 3 || !h[0].Done || !h[2].Done || h[2].Answer.Data != of(0) {
+		t.Fatal(v, h)
+	}
+	want := right
+	want.Linear, want.Firsts = false, false
+	if v := judge.All(w); v != want || judge.Linear(w) || judge.Firsts(w) || !judge.One(w) || !judge.Promotes(w) || !judge.Lines(w) || !judge.Heals(w) {
+		t.Error(v)
+	}
+	// A protocol by which that may be is not judged, nor a world that is not guarded.
+	for i, f := range []func(s *api.Stage){func(s *api.Stage) { s.Setup.Protocol = api.ProtocolA }, func(s *api.Stage) { s.Setup.Hot = 1 }} {
+		s := w.Stage()
+		f(&s)
+		judged(t, i, run(t, s, w.Log()...))
+	}
+}
